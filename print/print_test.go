@@ -58,8 +58,8 @@ func plainTag(n api.Node) string {
 	return s + ">"
 }
 
-// plainOwn is the text of a text or a comment; parent is the name of the element of HTML whose kid it is, if it is one's.
-func plainOwn(n api.Node, parent string) string {
+// plainWritten is a text or a comment as it is written; parent is the name of the element of HTML whose kid it is, if it is one's.
+func plainWritten(n api.Node, parent string) string {
 	if n.Kind == api.Comment {
 		return "<!--" + n.Text + "-->"
 	}
@@ -89,14 +89,14 @@ func plainText(l []api.Node, parent string) string {
 			}
 			s += plainText(n.Kids, plainParent(n)) + "</" + n.Name + ">"
 		case api.Text, api.Comment:
-			s += plainOwn(n, parent)
+			s += plainWritten(n, parent)
 		}
 	}
 	return s
 }
 
 // plainLines are lines as the chapter tells them.
-func plainLines(l []api.Node, indent, parent string) []string {
+func plainLines(l []api.Node, indent string) []string {
 	var lines []string
 	for _, n := range l {
 		s := indent
@@ -104,10 +104,10 @@ func plainLines(l []api.Node, indent, parent string) []string {
 		case api.Element:
 			s += plainTag(n)
 		case api.Text, api.Comment:
-			s += strings.Join(strings.Split(plainOwn(n, parent), "\n"), " ")
+			s += strings.Join(strings.Split(n.Text, "\n"), " ")
 		}
 		lines = append(lines, s)
-		lines = append(lines, plainLines(n.Kids, indent+" ", plainParent(n))...)
+		lines = append(lines, plainLines(n.Kids, indent+" ")...)
 	}
 	return lines
 }
@@ -154,19 +154,19 @@ func hold(t *testing.T, l []api.Node, want string, lines ...string) {
 // holdPlain asks for what the chapter tells.
 func holdPlain(t *testing.T, l []api.Node) {
 	t.Helper()
-	hold(t, l, plainText(l, ""), plainLines(l, "", "")...)
+	hold(t, l, plainText(l, ""), plainLines(l, "")...)
 }
 
 // Promises 13.1, 13.2: the document's example, and ordinary nodes.
 func TestOrdinary(t *testing.T) {
 	hold(t, nil, "")
 	hold(t, list(), "")
-	hold(t, list(elem("p", text("a<"))), "<p>a&lt;</p>", "<p>", " a&lt;")
+	hold(t, list(elem("p", text("a<"))), "<p>a&lt;</p>", "<p>", " a<")
 	hold(t, list(text("a")), "a", "a")
 	hold(t, list(text("a"), elem("b", text("c")), text("d")), "a<b>c</b>d", "a", "<b>", " c", "d")
 	hold(t, list(elem("ul", elem("li", text("1")), elem("li", elem("i", text("2"))))), "<ul><li>1</li><li><i>2</i></li></ul>", "<ul>", " <li>", "  1", " <li>", "  <i>", "   2")
 	hold(t, list(with(elem("a", text("y")), "href", "/x", "title", "")), `<a href="/x" title="">y</a>`, `<a href="/x" title="">`, " y")
-	hold(t, list(note("c"), elem("p"), note("")), "<!--c--><p></p><!---->", "<!--c-->", "<p>", "<!---->")
+	hold(t, list(note("c"), elem("p"), note("")), "<!--c--><p></p><!---->", "c", "<p>", "")
 	hold(t, list(in(api.SVG, elem("svg", in(api.SVG, elem("g", text("x")))))), "<svg><g>x</g></svg>", "<svg>", " <g>", "  x")
 	hold(t, list(in(api.Math, elem("math", in(api.Math, elem("mi", elem("b")))))), "<math><mi><b></b></mi></math>", "<math>", " <mi>", "  <b>")
 }
@@ -211,7 +211,7 @@ func TestVoid(t *testing.T) {
 		hold(t, list(elem(name)), tag, tag)
 		hold(t, list(elem(name, text("no"), elem("b", text("no"))), text("y")), tag+"y", tag, " no", " <b>", "  no", "y")
 		hold(t, list(with(elem(name, text("no")), "a", "\"")), "<"+name+" a=\"&quot;\">", "<"+name+" a=\"&quot;\">", " no")
-		hold(t, list(elem("p", elem(name, note("no")), text("y"))), "<p>"+tag+"y</p>", "<p>", " "+tag, "  <!--no-->", " y")
+		hold(t, list(elem("p", elem(name, note("no")), text("y"))), "<p>"+tag+"y</p>", "<p>", " "+tag, "  no", " y")
 		for _, space := range []int{api.SVG, api.Math, 3, -1, 256} {
 			hold(t, list(in(space, elem(name))), tag+"</"+name+">", tag)
 			hold(t, list(in(space, elem(name, text("yes"), elem("b")))), tag+"yes<b></b></"+name+">", tag, " yes", " <b>")
@@ -228,22 +228,22 @@ func TestRaw(t *testing.T) {
 	for _, name := range []string{"script", "style", "xmp"} {
 		tag, end := "<"+name+">", "</"+name+">"
 		hold(t, list(elem(name, text(s))), tag+s+end, tag, " "+s)
-		hold(t, list(elem(name, text(s), text(s)), text(s)), tag+s+s+end+escaped, tag, " "+s, " "+s, escaped)
+		hold(t, list(elem(name, text(s), text(s)), text(s)), tag+s+s+end+escaped, tag, " "+s, " "+s, s)
 		hold(t, list(elem(name, text(end))), tag+end+end, tag, " "+end)
-		hold(t, list(elem(name, elem("b", text(s)), text(s))), tag+"<b>"+escaped+"</b>"+s+end, tag, " <b>", "  "+escaped, " "+s)
-		hold(t, list(elem("b", elem(name, text(s)), text(s))), "<b>"+tag+s+end+escaped+"</b>", "<b>", " "+tag, "  "+s, " "+escaped)
+		hold(t, list(elem(name, elem("b", text(s)), text(s))), tag+"<b>"+escaped+"</b>"+s+end, tag, " <b>", "  "+s, " "+s)
+		hold(t, list(elem("b", elem(name, text(s)), text(s))), "<b>"+tag+s+end+escaped+"</b>", "<b>", " "+tag, "  "+s, " "+s)
 		hold(t, list(elem(name, elem(name, text(s)))), tag+tag+s+end+end, tag, " "+tag, "  "+s)
-		hold(t, list(elem(name, note(s), in(api.SVG, elem("b", text(s))))), tag+"<!--"+s+"--><b>"+escaped+"</b>"+end, tag, " <!--"+s+"-->", " <b>", "  "+escaped)
+		hold(t, list(elem(name, note(s), in(api.SVG, elem("b", text(s))))), tag+"<!--"+s+"--><b>"+escaped+"</b>"+end, tag, " "+s, " <b>", "  "+s)
 		for _, space := range []int{api.SVG, api.Math, 3, -1, 256} {
-			hold(t, list(in(space, elem(name, text(s)))), tag+escaped+end, tag, " "+escaped)
-			hold(t, list(elem(name, in(space, elem(name, text(s))))), tag+tag+escaped+end+end, tag, " "+tag, "  "+escaped)
+			hold(t, list(in(space, elem(name, text(s)))), tag+escaped+end, tag, " "+s)
+			hold(t, list(elem(name, in(space, elem(name, text(s))))), tag+tag+escaped+end+end, tag, " "+tag, "  "+s)
 		}
-		// What is no element has no texts as they are, whatever its Name.
-		hold(t, list(below(api.Node{Kind: api.Text, Name: name, Text: s}, text(s))), escaped, escaped, " "+escaped)
-		hold(t, list(below(api.Node{Kind: 9, Name: name, Text: s}, text(s))), "", "", " "+escaped)
+		// What is no element has no texts that are written as they are, whatever its Name.
+		hold(t, list(below(api.Node{Kind: api.Text, Name: name, Text: s}, text(s))), escaped, s, " "+s)
+		hold(t, list(below(api.Node{Kind: 9, Name: name, Text: s}, text(s))), "", "", " "+s)
 	}
 	for _, name := range []string{"title", "textarea", "pre", "p", "noscript", "iframe", "plaintext", "svg", "STYLE", "stylex", "br x", ""} {
-		hold(t, list(elem(name, text(s))), "<"+name+">"+escaped+"</"+name+">", "<"+name+">", " "+escaped)
+		hold(t, list(elem(name, text(s))), "<"+name+">"+escaped+"</"+name+">", "<"+name+">", " "+s)
 	}
 }
 
@@ -286,12 +286,12 @@ func TestEscaped(t *testing.T) {
 		{"&amp;&lt;", "&amp;amp;&amp;lt;", "&amp;amp;&amp;lt;"},
 		{"<p a=\"b\">", "&lt;p a=\"b\"&gt;", "&lt;p a=&quot;b&quot;&gt;"},
 	} {
-		hold(t, list(text(c.s)), c.text, c.text)
-		hold(t, list(elem("p", text("x"+c.s+"y"))), "<p>x"+c.text+"y</p>", "<p>", " x"+c.text+"y")
+		hold(t, list(text(c.s)), c.text, c.s)
+		hold(t, list(elem("p", text("x"+c.s+"y"))), "<p>x"+c.text+"y</p>", "<p>", " x"+c.s+"y")
 		hold(t, list(with(elem("p"), "a", c.s)), "<p a=\""+c.value+"\"></p>", "<p a=\""+c.value+"\">")
 		hold(t, list(with(elem("br"), "a", "x", "b", c.s+c.s)), "<br a=\"x\" b=\""+c.value+c.value+"\">", "<br a=\"x\" b=\""+c.value+c.value+"\">")
 		hold(t, list(with(elem("style", text(c.s)), "a", c.s)), "<style a=\""+c.value+"\">"+c.s+"</style>", "<style a=\""+c.value+"\">", " "+c.s)
-		hold(t, list(note(c.s)), "<!--"+c.s+"-->", "<!--"+c.s+"-->")
+		hold(t, list(note(c.s)), "<!--"+c.s+"-->", c.s)
 	}
 }
 
@@ -299,10 +299,10 @@ func TestEscaped(t *testing.T) {
 func TestComments(t *testing.T) {
 	for _, s := range []string{"", "a", "-", "--", "-->", "--!>", ">", "->", "<!--", "a--b", "<b>&amp;\"", "\xff\x00\r", " ", "&\u00a0"} {
 		want := "<!--" + s + "-->"
-		hold(t, list(note(s)), want, want)
-		hold(t, list(elem("p", note(s), note(s))), "<p>"+want+want+"</p>", "<p>", " "+want, " "+want)
-		hold(t, list(elem("style", note(s))), "<style>"+want+"</style>", "<style>", " "+want)
-		hold(t, list(below(api.Node{Kind: api.Comment, Name: "p", Text: s}, text("no"))), want, want, " no")
+		hold(t, list(note(s)), want, s)
+		hold(t, list(elem("p", note(s), note(s))), "<p>"+want+want+"</p>", "<p>", " "+s, " "+s)
+		hold(t, list(elem("style", note(s))), "<style>"+want+"</style>", "<style>", " "+s)
+		hold(t, list(below(api.Node{Kind: api.Comment, Name: "p", Text: s}, text("no"))), want, s, " no")
 	}
 }
 
@@ -329,9 +329,9 @@ func TestWrong(t *testing.T) {
 	hold(t, list(with(elem("p"), "a", "1", "a", "2", "a", "1")), `<p a="1" a="2" a="1"></p>`, `<p a="1" a="2" a="1">`)
 	hold(t, list(text(""), text(""), text("a"), text(""), text("b")), "ab", "", "", "a", "", "b")
 	hold(t, list(below(text("a"), text("b"), elem("i", text("c")))), "a", "a", " b", " <i>", "  c")
-	hold(t, list(below(note("a"), text("b"))), "<!--a-->", "<!--a-->", " b")
+	hold(t, list(below(note("a"), text("b"))), "<!--a-->", "a", " b")
 	hold(t, list(elem("p", below(text("a"), elem("b")))), "<p>a</p>", "<p>", " a", "  <b>")
-	hold(t, list(in(api.SVG, with(api.Node{Kind: api.Text, Name: "p", Text: "&"}, "a", "b"))), "&amp;", "&amp;")
+	hold(t, list(in(api.SVG, with(api.Node{Kind: api.Text, Name: "p", Text: "&"}, "a", "b"))), "&amp;", "&")
 	hold(t, list(api.Node{Kind: api.Element, Name: "p", Text: "no"}), "<p></p>", "<p>")
 	var many []string
 	for i := range 40 {
@@ -345,16 +345,37 @@ func TestLineEnds(t *testing.T) {
 	hold(t, list(text("y\nz")), "y\nz", "y z")
 	hold(t, list(text("\n\n")), "\n\n", "  ")
 	hold(t, list(elem("pre", text("\n a\r\n\tb\n"))), "<pre>\n a\r\n\tb\n</pre>", "<pre>", "   a\r \tb ")
-	hold(t, list(elem("p", note("\na\n\nb"))), "<p><!--\na\n\nb--></p>", "<p>", " <!-- a  b-->")
+	hold(t, list(elem("p", note("\na\n\nb"))), "<p><!--\na\n\nb--></p>", "<p>", "  a  b")
 	hold(t, list(elem("style", text("a\n<b\n"))), "<style>a\n<b\n</style>", "<style>", " a <b ")
 	hold(t, list(with(elem("p", text("\n")), "a", "1\n2")), "<p a=\"1\n2\">\n</p>", "<p a=\"1\n2\">", "  ")
 	hold(t, list(text("\v\f\u2028\u0085")), "\v\f\u2028\u0085", "\v\f\u2028\u0085")
 }
 
+// Promise 13.2: a text's and a comment's line has the node's own Text, whatever is written of it, and whosever kid it is.
+func TestOwnText(t *testing.T) {
+	const s, own = "&\u00a0<\n>\"-->&lt;", "&\u00a0< >\"-->&lt;"
+	parents := list(elem("p"), elem("style"), elem("script"), elem("xmp"), elem("title"), elem("textarea"), elem("br"), in(api.SVG, elem("style")), in(api.Math, elem("xmp")), in(api.SVG, elem("br")), in(3, elem("script")), text("x"), note("x"), api.Node{Kind: 9})
+	for _, kid := range list(text(s), note(s), in(api.SVG, text(s)), in(7, note(s))) {
+		if got := Lines(list(kid, kid)); !slices.Equal(got, []string{own, own}) {
+			t.Errorf("Lines: %q; want %q twice", got, own)
+		}
+		for _, n := range parents {
+			want := append(Lines(list(n)), " "+own, " "+own)
+			if got := Lines(list(below(n, kid, kid))); !slices.Equal(got, want) {
+				t.Errorf("Lines: %q; want %q", got, want)
+			}
+		}
+	}
+	l := list(elem("p", text("a<")), note("c\n-"), in(api.SVG, elem("style", text("&\n\""))), text("\xc2\xa0>"))
+	hold(t, l, "<p>a&lt;</p><!--c\n---><style>&amp;\n\"</style>&nbsp;&gt;", "<p>", " a<", "c -", "<style>", " & \"", "\xc2\xa0>")
+	// A value in a tag is written, so it stays escaped.
+	hold(t, list(with(elem("p"), "a", s)), "<p a=\""+plainEscape(s, true)+"\"></p>", "<p a=\""+plainEscape(s, true)+"\">")
+}
+
 // Promise 13.2: as many spaces as a node lies deep, and each ahead of its kids, these ahead of what is behind it.
 func TestDeepLines(t *testing.T) {
 	l := list(text("x\ny"), note("\n"))
-	want := []string{"x y", "<!-- -->"}
+	want := []string{"x y", " "}
 	for range 200 {
 		l = list(elem("i", l...), text("z"))
 		for i := range want {
@@ -513,7 +534,7 @@ func TestGreat(t *testing.T) {
 		t.Error("Text of many nodes")
 	}
 	long := strings.Repeat("a<", 1<<20)
-	hold(t, list(with(elem("p", text(long)), "a", long)), "<p a=\""+plainEscape(long, true)+"\">"+plainEscape(long, true)+"</p>", "<p a=\""+plainEscape(long, true)+"\">", " "+plainEscape(long, true))
+	hold(t, list(with(elem("p", text(long)), "a", long)), "<p a=\""+plainEscape(long, true)+"\">"+plainEscape(long, true)+"</p>", "<p a=\""+plainEscape(long, true)+"\">", " "+long)
 }
 
 // Rule R3: lines are new memory, each time.
