@@ -20,14 +20,9 @@ func section(class string, kids []api.Node) api.Node {
 	return api.Node{Kind: api.Element, Name: "section", Attrs: []api.Attr{{Name: "class", Value: class}}, Kids: kids}
 }
 
-// IsMark tells whether a node is a mark.
+// IsMark tells whether a node is a mark of some two lists. These may be any lists, those that Mark would not leave as they are too.
 func IsMark(n api.Node) bool {
-	return isSection(&n, "clash") && len(n.Kids) == 2 && isSide(&n.Kids[0], "ours") && isSide(&n.Kids[1], "theirs")
-}
-
-// isSide tells whether a node is a side of a mark: Mark leaves no texts side by side in one.
-func isSide(n *api.Node, class string) bool {
-	return isSection(n, class) && apart(n.Kids)
+	return isSection(&n, "clash") && len(n.Kids) == 2 && isSection(&n.Kids[0], "ours") && isSection(&n.Kids[1], "theirs")
 }
 
 // isSection tells whether a node is a section of that class, whatever its Kids are.

@@ -48,24 +48,21 @@ func nearly() map[string]api.Node {
 	of := func(kids ...api.Node) api.Node { return holding(mark, kids...) }
 	bare := elem("section", ours, theirs)
 	all := map[string]api.Node{
-		"nothing":                    {},
-		"one kid less":               of(ours),
-		"the other kid less":         of(theirs),
-		"no kids":                    of(),
-		"one kid more":               of(ours, theirs, theirs),
-		"a text behind":              of(ours, theirs, text("a")),
-		"a text ahead":               of(text("a"), ours, theirs),
-		"a text between":             of(ours, text(" "), theirs),
-		"the other order":            of(theirs, ours),
-		"ours twice":                 of(ours, ours),
-		"theirs twice":               of(theirs, theirs),
-		"a text with these kids":     holding(text("a"), ours, theirs),
-		"a mark in a div":            elem("div", mark),
-		"a mark as ours":             of(mark, theirs),
-		"texts side by side, ours":   of(holding(ours, text("a"), text("b")), theirs),
-		"texts side by side, theirs": of(ours, holding(theirs, elem("i"), text("a"), text("b"))),
-		"empty texts side by side":   of(holding(ours, text(""), text("")), theirs),
-		"a list of ours, as a text":  of(text("a"), theirs),
+		"nothing":                   {},
+		"one kid less":              of(ours),
+		"the other kid less":        of(theirs),
+		"no kids":                   of(),
+		"one kid more":              of(ours, theirs, theirs),
+		"a text behind":             of(ours, theirs, text("a")),
+		"a text ahead":              of(text("a"), ours, theirs),
+		"a text between":            of(ours, text(" "), theirs),
+		"the other order":           of(theirs, ours),
+		"ours twice":                of(ours, ours),
+		"theirs twice":              of(theirs, theirs),
+		"a text with these kids":    holding(text("a"), ours, theirs),
+		"a mark in a div":           elem("div", mark),
+		"a mark as ours":            of(mark, theirs),
+		"a list of ours, as a text": of(text("a"), theirs),
 	}
 	for what, n := range changes(mark, bare, "clash") {
 		all[what] = n
@@ -122,10 +119,16 @@ func TestIsMark(t *testing.T) {
 		clash(list(clash(nil, nil)), list(clash(nil, nil), clash(nil, nil))),
 		clash(list(class("ours"), class("theirs")), list(kind(7), elem(""))),
 		clash(list(elem("p", text("a"), elem("i"), text("b")), text("c")), deep(100, text("a"))),
+		// Of any two lists, those in which texts stand side by side too.
+		clash(list(text("a"), text("b")), nil),
+		clash(nil, list(elem("i"), text("a"), text("b"))),
+		clash(list(text(""), text("")), list(text("a"), text("a"), text("a"))),
+		clash(list(elem("p", text("a"), text("b"))), list(holding(text("a"), text("b")), text("c"))),
 	} {
 		if !IsMark(m) || !plainIsMark(m) || Marks(list(m)) != 1 {
 			t.Errorf("IsMark(%s): %v, %d marks", show(list(m)), IsMark(m), Marks(list(m)))
 		}
+		holdMarks(t, list(text("x"), m, text("y"), elem("p", m, m)))
 	}
 	for what, n := range nearly() {
 		if IsMark(n) || plainIsMark(n) {
@@ -166,6 +169,8 @@ func TestMarks(t *testing.T) {
 		{"texts around nothing", list(text("a"), clash(nil, list(elem("i"))), text("b")), 1, "'ab'", "'a'i()'b'"},
 		{"texts of several", list(text("a"), m, m, clash(nil, nil), text("b")), 3, "'a11b'", "'a'p('2')'3'p('2')'3b'"},
 		{"texts around, deep", deep(5, text("a"), m, text("b")), 1, show(deep(5, text("a1b"))), show(deep(5, text("a"), p("2"), text("3b")))},
+		{"texts side by side in a mark", list(clash(list(text("a"), text("b")), list(text("c"), elem("i"), text("d"), text("e")))), 1, "'ab'", "'c'i()'de'"},
+		{"texts side by side in a mark and around", list(text("x"), clash(list(text("a"), text("b")), nil), text("y")), 1, "'xaby'", "'xy'"},
 		{"texts side by side that were there", list(text("a"), text("b"), elem("p", text("c"), text("d"))), 0, "'ab'p('cd')", "'ab'p('cd')"},
 		// What has no kids of its own by rights.
 		{"a mark below a text", list(holding(text("a"), m, m), holding(note("b"), m), kind(7, m)), 4, "'a'('11')<!b>('1')?7\"\"\"\"('1')", "'a'(p('2')'3'p('2')'3')<!b>(p('2')'3')?7\"\"\"\"(p('2')'3')"},

@@ -269,6 +269,7 @@ func TestSideBySide(t *testing.T) {
 // Promise 26.1: marks that are there are elements as others are, and only those that are made are counted.
 func TestMarksWithin(t *testing.T) {
 	m := clash(list(text("1")), list(text("2")))
+	two := clash(list(text("a"), text("b")), nil)
 	holdPages(t, []pages{
 		{"one that stays", list(m), list(m), list(m), list(m), 0},
 		{"one that comes", nil, list(m), nil, list(m), 0},
@@ -277,6 +278,8 @@ func TestMarksWithin(t *testing.T) {
 		{"both went on in one", list(m), list(clash(list(text("3")), list(text("2")))), list(clash(list(text("1")), list(text("4")))), list(clash(list(text("3")), list(text("4")))), 0},
 		{"a mark in a side", list(m), list(clash(list(text("3")), list(text("2")))), list(clash(list(text("4")), list(text("2")))), list(clash(list(clash(list(text("3")), list(text("4")))), list(text("2")))), 1},
 		{"a mark of marks", nil, list(m), list(clash(list(text("1")), nil)), list(clash(list(m), list(clash(list(text("1")), nil)))), 1},
+		{"texts side by side in one", list(two), list(two), list(two), list(clash(list(text("ab")), nil)), 0},
+		{"texts side by side in one that comes", nil, list(two), nil, list(two), 0},
 		{"a mark made beside one", list(m, p("1")), list(m, p("2")), list(m, p("3")), list(m, elem("p", clash(list(text("2")), list(text("3"))))), 1},
 	})
 }

@@ -186,9 +186,9 @@ func plainJoin(l []api.Node) []api.Node {
 // plainMark is a mark, as the chapter tells it.
 func plainMark(a, b []api.Node) api.Node { return clash(plainJoin(a), plainJoin(b)) }
 
-// plainIsMark tells whether a node is the mark of the lists that it had to be one of.
+// plainIsMark tells whether a node is a mark of the lists that it had to be one of.
 func plainIsMark(n api.Node) bool {
-	return len(n.Kids) == 2 && sameNode(n, plainMark(n.Kids[0].Kids, n.Kids[1].Kids))
+	return len(n.Kids) == 2 && sameNode(n, clash(n.Kids[0].Kids, n.Kids[1].Kids))
 }
 
 func plainMarks(l []api.Node) int {
